@@ -90,8 +90,7 @@ func RegionTurn(r Region) Region {
 	}
 	turned := bareField(r.Tall, r.Wide)
 	for cell, has := range r.Cells {
-		x, y := cell%r.Wide, cell/r.Wide
-		turned.Cells[cellAt(turned, r.Tall-1-y, x)] = has
+		turned.Cells[turnedCell(r, cell)] = has
 	}
 	return turned
 }
@@ -103,8 +102,7 @@ func RegionFlip(r Region) Region {
 	}
 	flipped := bareField(r.Wide, r.Tall)
 	for cell, has := range r.Cells {
-		x, y := cell%r.Wide, cell/r.Wide
-		flipped.Cells[cellAt(flipped, r.Wide-1-x, y)] = has
+		flipped.Cells[flippedCell(r, cell)] = has
 	}
 	return flipped
 }
@@ -243,10 +241,22 @@ func cellAt(field Region, x int, y int) int {
 
 // hasCell answers for places outside of the field, too, so that whoever looks around a cell at the edge needs no check.
 func hasCell(field Region, x int, y int) bool {
-	if x < 0 || x >= field.Wide || y < 0 || y >= field.Tall {
-		return false
-	}
-	return field.Cells[cellAt(field, x, y)]
+	return inField(field, x, y) && field.Cells[cellAt(field, x, y)]
+}
+
+func inField(field Region, x int, y int) bool {
+	return x >= 0 && x < field.Wide && y >= 0 && y < field.Tall
+}
+
+// turnedCell returns the index of a cell in the field turned, where a row is as long as a column is here.
+func turnedCell(field Region, cell int) int {
+	x, y := cell%field.Wide, cell/field.Wide
+	return x*field.Tall + field.Tall - 1 - y
+}
+
+func flippedCell(field Region, cell int) int {
+	x, y := cell%field.Wide, cell/field.Wide
+	return cellAt(field, field.Wide-1-x, y)
 }
 
 func darkAt(x int, y int) bool {
