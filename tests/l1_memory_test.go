@@ -106,25 +106,31 @@ func TestRegionsAreNotWrittenTo(t *testing.T) {
 	}
 }
 
+// checkRegionsUnshared writes into one result and into the arguments: another result stays as it is.
+func checkRegionsUnshared(t *testing.T, name string, maker func(a impl.Region, b impl.Region) impl.Region, p [2]impl.Region) {
+	t.Helper()
+	a, b := roomy(p[0]), roomy(p[1])
+	beforeA, beforeB := whole(a), whole(b)
+	first, second := maker(a, b), maker(a, b)
+	kept := slices.Clone(first.Cells)
+	if !sameRegion(first, second) {
+		t.Fatal(name, "remembers", p)
+	}
+	invert(second)
+	if !slices.Equal(first.Cells, kept) || !slices.Equal(whole(a), beforeA) || !slices.Equal(whole(b), beforeB) {
+		t.Fatal(name, "shares memory of", p)
+	}
+	invert(a)
+	invert(b)
+	if !slices.Equal(first.Cells, kept) {
+		t.Fatal(name, "keeps memory of", p)
+	}
+}
+
 func TestResultsShareNoMemory(t *testing.T) {
 	for name, maker := range regionMakers() {
 		for _, p := range memoryPairs() {
-			a, b := roomy(p[0]), roomy(p[1])
-			beforeA, beforeB := whole(a), whole(b)
-			first, second := maker(a, b), maker(a, b)
-			kept := slices.Clone(first.Cells)
-			if !sameRegion(first, second) {
-				t.Fatal(name, "remembers", p)
-			}
-			invert(second)
-			if !slices.Equal(first.Cells, kept) || !slices.Equal(whole(a), beforeA) || !slices.Equal(whole(b), beforeB) {
-				t.Fatal(name, "shares memory of", p)
-			}
-			invert(a)
-			invert(b)
-			if !slices.Equal(first.Cells, kept) {
-				t.Fatal(name, "keeps memory of", p)
-			}
+			checkRegionsUnshared(t, name, maker, p)
 		}
 	}
 }

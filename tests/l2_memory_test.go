@@ -104,16 +104,64 @@ func memoryFields() []field {
 	return append(list, wrongFields()...)
 }
 
+// checkNotWritten calls a function and looks whether it has written into its arguments or behind them.
+func checkNotWritten(t *testing.T, name string, maker func(f field) [][]int, f field) {
+	t.Helper()
+	g := roomyField(f)
+	cells, laid := whole(g.r), wholeList(g.laid)
+	maker(g)
+	askLaid(g)
+	if !slices.Equal(whole(g.r), cells) || !slices.Equal(wholeList(g.laid), laid) {
+		t.Fatal(name, "writes into", f)
+	}
+}
+
+// checkUnshared writes into one result and into the arguments: another result stays as it is.
+func checkUnshared(t *testing.T, name string, maker func(f field) [][]int, f field) {
+	t.Helper()
+	g := roomyField(f)
+	cells, laid := whole(g.r), wholeList(g.laid)
+	first, second := maker(g), maker(g)
+	kept := copyLists(first)
+	for _, list := range second {
+		scribble(list)
+	}
+	if !sameLists(copyLists(first), kept) || !slices.Equal(whole(g.r), cells) || !slices.Equal(wholeList(g.laid), laid) {
+		t.Fatal(name, "shares memory of", f)
+	}
+	if !sameLists(maker(g), maker(roomyField(f))) {
+		t.Fatal(name, "remembers", f)
+	}
+	invert(g.r)
+	scribble(g.laid)
+	if !sameLists(copyLists(first), kept) {
+		t.Fatal(name, "keeps memory of", f)
+	}
+}
+
+// checkApart writes into the lists of one result, one after the other: those behind stay as they are.
+func checkApart(t *testing.T, r impl.Region, all [][]int) {
+	t.Helper()
+	kept := copyLists(all)
+	for i, list := range all {
+		scribble(list)
+		if !sameLists(copyLists(all[i+1:]), kept[i+1:]) {
+			t.Fatal(r, i)
+		}
+	}
+	for i, list := range all {
+		for j := range list {
+			if list[j] != kept[i][j]+77 {
+				t.Fatal("written to more than once", r, i)
+			}
+		}
+	}
+}
+
 func TestListsAreNotWrittenTo(t *testing.T) {
 	for name, maker := range listMakers() {
 		for _, f := range memoryFields() {
-			g := roomyField(f)
-			cells, laid := whole(g.r), wholeList(g.laid)
-			maker(g)
-			askLaid(g)
-			if !slices.Equal(whole(g.r), cells) || !slices.Equal(wholeList(g.laid), laid) {
-				t.Fatal(name, "writes into", f)
-			}
+			checkNotWritten(t, name, maker, f)
 		}
 	}
 }
@@ -121,45 +169,14 @@ func TestListsAreNotWrittenTo(t *testing.T) {
 func TestListsShareNoMemory(t *testing.T) {
 	for name, maker := range listMakers() {
 		for _, f := range memoryFields() {
-			g := roomyField(f)
-			cells, laid := whole(g.r), wholeList(g.laid)
-			first, second := maker(g), maker(g)
-			kept := copyLists(first)
-			for _, list := range second {
-				scribble(list)
-			}
-			if !sameLists(copyLists(first), kept) || !slices.Equal(whole(g.r), cells) || !slices.Equal(wholeList(g.laid), laid) {
-				t.Fatal(name, "shares memory of", f)
-			}
-			if !sameLists(maker(g), maker(roomyField(f))) {
-				t.Fatal(name, "remembers", f)
-			}
-			invert(g.r)
-			scribble(g.laid)
-			if !sameLists(copyLists(first), kept) {
-				t.Fatal(name, "keeps memory of", f)
-			}
+			checkUnshared(t, name, maker, f)
 		}
 	}
 }
 
 func TestTilingsShareNoMemoryWithEachOther(t *testing.T) {
 	for _, r := range []impl.Region{filled(4, 6, 24), filled(3, 2, 6), filled(2, 2, 4)} {
-		all := impl.TilingsAll(r)
-		kept := copyLists(all)
-		for i, list := range all {
-			scribble(list)
-			if !sameLists(copyLists(all[i+1:]), kept[i+1:]) {
-				t.Fatal(r, i)
-			}
-		}
-		for i, list := range all {
-			for j := range list {
-				if list[j] != kept[i][j]+77 {
-					t.Fatal("written to more than once", r, i)
-				}
-			}
-		}
+		checkApart(t, r, impl.TilingsAll(r))
 	}
 }
 
